@@ -359,6 +359,14 @@ func TestParseMany(t *testing.T) {
 		t.Fatal(e)
 	}
 	parses(t, formula.New(), text, more, z.Rows()...)
+	// More parentheses than may be open at once, one behind the other.
+	w, _ := doubling(t, 13)
+	one := []api.Step{proved(seq(12, 12), api.RuleId, 12)}
+	text, e = deriv.Print(w, one)
+	if e != api.OK || strings.Count(text, "(") < 2*api.MaxForms {
+		t.Fatal(e, len(text))
+	}
+	parses(t, formula.New(), text, one, w.Rows()...)
 }
 
 // TestParseLong: P10.6, a text of just MaxText bytes is read, one of more is ErrLong ahead of all but ErrNil.
