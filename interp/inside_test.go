@@ -54,6 +54,9 @@ func TestWays(t *testing.T) {
 	for many < 1000 {
 		x := formula.New()
 		a := someForm(chance, x, 2+chance.IntN(9), []string{"p", "p'", "q", "r", "s"})
+		for range chance.IntN(2) * chance.IntN(130) { // rows that nobody asks of, so that the others' numbers are any
+			x.Not(x.Len() - 1)
+		}
 		b := someForm(chance, x, 2+chance.IntN(9), []string{"q", "r", "s", "u", "v"})
 		f, e := search.Run(x, api.Seq{Left: set(a), Goal: b}, 60)
 		if e != api.OK || !f.Proved {
@@ -160,7 +163,17 @@ func TestShorterEnds(t *testing.T) {
 		t.Error(x, looked)
 	}
 	looked = 0
-	if x := m.shorter(id, func(int) bool { looked++; return looked%2 == 0 }); x == id || looked > tries {
+	size, _ := measure.Size(m.t, id)
+	slowly := func(x int) bool { // a little shorter each time
+		looked++
+		n, _ := measure.Size(m.t, x)
+		if n < size-4 {
+			return false
+		}
+		size = n
+		return true
+	}
+	if x := m.shorter(id, slowly); x == id || looked > tries {
 		t.Error(x, looked)
 	}
 }

@@ -63,7 +63,7 @@ func TestCraigNew(t *testing.T) {
 // TestCraigLarge: P25.1, beyond the limits ErrInterp may be answered, but nothing that is wrong.
 func TestCraigLarge(t *testing.T) {
 	t.Parallel()
-	for _, n := range []int{30, 80} {
+	for _, n := range []int{30, 60} {
 		for _, two := range []func(n int) (*tree, *tree){all, zigzag} {
 			x := formula.New()
 			a, b := two(n)

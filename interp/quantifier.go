@@ -26,12 +26,9 @@ func (m *maker) over(id int, name string, all bool) int {
 	return q.ask(asked{id, all})
 }
 
-// ask answers what is asked. It ends where the table is full, too, as each formula that is asked of is a row.
+// ask answers what is asked. Where the table is full it asks of row 0, which has no parts, so that it ends.
 func (q *quantifier) ask(of asked) int {
 	of.id = q.filled(of.id, q.name, q.atom(q.name)) // the same formula, but simpler
-	if q.full {
-		return 0
-	}
 	if id, ok := q.told[of]; ok {
 		return id
 	}
@@ -142,12 +139,7 @@ func (q *quantifier) together(left []int) int {
 }
 
 // toward makes what says that a goal follows from a left side.
-func (q *quantifier) toward(left []int, goal int) int {
-	if len(left) == 0 {
-		return goal
-	}
-	return q.imp(q.together(left), goal)
-}
+func (q *quantifier) toward(left []int, goal int) int { return q.imp(q.together(left), goal) }
 
 // beside is a left side without one of its formulas, but with some more.
 func (q *quantifier) beside(left []int, f int, more ...int) []int {
